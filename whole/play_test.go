@@ -150,7 +150,7 @@ func (p *player) other(x api.Tx) api.Tx {
 		p.rows = append(p.rows, rows)
 		x.Kind, x.From, x.H = tx.Post, 3, []api.Hash{root}
 	case 6:
-		x.Kind, x.From, x.N = tx.Disable, 3, []int{p.Intn(1 + roots.Count(p.l.Store()))}
+		x.Kind, x.From, x.N = tx.Disable, 3, []int{p.Intn(1 + min(api.MaxRoots, roots.Count(p.l.Store())))}
 	case 7:
 		x.Kind, x.N, x.A = tx.Transfer, []int{1 + p.Intn(2), p.account()}, []api.U{p.amount(50)}
 	case 8:
