@@ -176,6 +176,14 @@ func TestModifyErrors(t *testing.T) {
 	}
 }
 
+// TestLast: all numbers of a change may be as great as a block.
+func TestLast(t *testing.T) {
+	s := store.New()
+	modify(t, s, x, alloc.Change{To: of(5), Max: wad.One(), Block: api.MaxBlock, Tail: api.MaxBlock}, 0)
+	y := alloc.Id{Operator: 1, Strategy: 1}
+	modify(t, s, y, alloc.Change{To: of(5), Max: wad.One(), Delay: api.MaxBlock}, api.MaxBlock)
+}
+
 func TestNone(t *testing.T) {
 	s := store.New()
 	modify(t, s, x, to(of(half)), 0)

@@ -173,6 +173,15 @@ func TestWrong(t *testing.T) {
 			cell.SetRow(s, keys.Key(30, 8, 1, 9, 1), []int{1, 9})
 			cell.SetAmount(s, keys.Key(31, 8, 1, 9, 1), of(1))
 		}},
+		{audit.Sum, func(s *store.Store) {
+			cell.SetRow(s, keys.Key(30, 77, 1, 9, 1), []int{1, 9})
+			cell.SetAmount(s, keys.Key(31, 77, 1, 9, 1), of(1))
+		}},
+		{audit.Shares, func(s *store.Store) {
+			cell.SetRow(s, keys.Key(5, api.MaxStrategy), []int{1, 1})
+			cell.SetAmount(s, keys.Key(7, api.MaxStrategy), of(1))
+		}},
+		{audit.Rewards, set(keys.Key(34, 1), 1)},
 		{audit.Max, func(s *store.Store) {
 			a := of(half + half/2 + 1)
 			cell.SetAmount(s, keys.Key(32, 8, 1), a)

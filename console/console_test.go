@@ -53,7 +53,9 @@ post 00000000000000000000000000000000000000000000000000000000000000aa
 do disable 3 0
 audit
 ask block
-tick 1000`
+tick 1000
+do leave 8 9 0 8
+do split 8 9 5`
 
 const answers = `3 ok [mint 1 7 1000]
 4 ok [strategy 1 1]
@@ -85,6 +87,8 @@ const answers = `3 ok [mint 1 7 1000]
 31 fine
 32 8
 33 ok 0
+34 ok [leave 9 0 8 1012]
+35 ok [split 8 9 5 1010]
 `
 
 func TestPlay(t *testing.T) {
@@ -143,7 +147,7 @@ func TestCheck(t *testing.T) {
 	for _, line := range []string{
 		"x", "tick", "tick 0", "tick 1001", "tick 1 1", "tick -1", "tick a", "tick 1\t", "Tick 1", "tick 0000000000001", "tick 1;", "tick ;", " #", " # x", "\t", "\r", "tick 1\r", "tick\u00a01", "tick ١",
 		"do", "do mint", "do mint ;", "do mint ; 1", "do claim 1", "do post 3", "do post 3 5", "do Mint 1", "do unknown 1", "do mints 1", "do mint 1 x", "do mint 1 0000000000001", "do mint 1 -1", "do mint 1 ; 1 ; 2", "do mint 1 ;; 1", "do mint 1 1;", "do mint 1 ; ;",
-		"do mint 1 ; x", "do mint 1 ; " + long, "do mint 1 ; 340282366920938463463374607431768211456", "do mint 1 ; 0" + long, "do mint 1 ; -1", "do 1 1", "do mint 1 1 7 : 100",
+		"do mint 1 ; x", "do mint 1 ; " + long, "do mint 1 ; 340282366920938463463374607431768211456", "do mint 1 ; 0" + long, "do mint 1 ; " + strings.Repeat("0", 40), "do mint 1 ; -1", "do 1 1", "do mint 1 1 7 : 100",
 		"post", "post " + h + " 1", "post " + h[2:], "post " + h + "00", "post " + h[1:], "post " + strings.ToUpper(h), "post " + "0g" + h[2:], "raw", "raw 0", "raw 000", "raw 0G", "raw AB", "raw 00 00", "raw 0é0", "raw é", "raw 00\x00",
 		"ask", "ask x", "ask unknown", "ask Balance", "ask balance x", "ask balance 0000000000001", "ask balance 1 ; 2", "ask balance 1 -2", "digest 1", "audit x", "digest audit", "do\x00mint 1",
 	} {

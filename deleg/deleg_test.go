@@ -331,6 +331,19 @@ func TestEnds(t *testing.T) {
 	adds(t, s)
 }
 
+// TestLast: a withdrawal of the last block has an end, too.
+func TestLast(t *testing.T) {
+	s := filled(t)
+	deposit(t, s, 5, 1, 100)
+	id, e := deleg.Exit(s, 5, 1, of(100), api.MaxBlock)
+	if e != api.OK {
+		t.Fatal(e)
+	}
+	if end, m, ok := deleg.Ends(s, id, api.MaxBlock); end != 2*api.MaxBlock || m != wad.One() || !ok {
+		t.Error("Ends", end, m, ok)
+	}
+}
+
 // TestWrongEnd: what can't be paid out waits on.
 func TestWrongEnd(t *testing.T) {
 	s := filled(t)

@@ -138,6 +138,37 @@ func TestAddErrors(t *testing.T) {
 	}
 }
 
+func TestEnds(t *testing.T) {
+	s := store.New()
+	x := exit.Exit{Staker: 1, Operator: 1, Strategy: 1, Block: api.MaxBlock, Worth: wad.Most(), Max: wad.One()}
+	if id := add(t, s, x); id != 1 {
+		t.Error(id)
+	}
+	if got, ok := exit.Get(s, 1); !ok || got != x {
+		t.Error(got, ok)
+	}
+	if less, e := exit.Cut(s, 1, 1, 0, 0, wad.One(), wad.One()); less != (api.U{}) || e != api.OK {
+		t.Error("Cut", less, e)
+	}
+	if less, e := exit.Cut(s, 1, 1, 0, 0, api.U{}, wad.One()); less != wad.Most() || e != api.OK {
+		t.Error("Cut", less, e)
+	}
+}
+
+// TestWaiting: how many of a staker wait is counted.
+func TestWaiting(t *testing.T) {
+	s := store.New()
+	for range 3 {
+		add(t, s, one(3))
+	}
+	for i, id := range []int{2, 1, 3} {
+		exit.Done(s, id, wad.One())
+		if n := cell.Int(s, keys.Key(20, 5)); n != 2-i {
+			t.Error(id, n)
+		}
+	}
+}
+
 func TestZeros(t *testing.T) {
 	s := store.New()
 	x := exit.Exit{Staker: 5, Strategy: 1}

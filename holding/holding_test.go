@@ -116,6 +116,24 @@ func TestTake(t *testing.T) {
 	}
 }
 
+// TestFactor: a factor stays as long as there is something left of its deposit.
+func TestFactor(t *testing.T) {
+	s := store.New()
+	if e := holding.Put(s, 1, 1, 1, of(half), of(100)); e != api.OK {
+		t.Fatal(e)
+	}
+	if w, e := holding.Take(s, 1, 1, 1, of(half), of(40)); w != of(40) || e != api.OK || holding.Factor(s, 1, 1) != of(4*half) {
+		t.Error("a part of it", w, e)
+	}
+	if w, e := holding.Take(s, 1, 1, 1, of(half), of(60)); w != of(60) || e != api.OK || s.Len() != 0 {
+		t.Error("the rest", w, e)
+	}
+	holding.Put(s, 1, 0, 1, wad.One(), of(5))
+	if w, e := holding.Shift(s, 1, 1, 1, wad.One()); w != of(5) || e != api.OK || holding.Part(s, 1, 1) != of(5) {
+		t.Error("Shift", w, e)
+	}
+}
+
 func TestShift(t *testing.T) {
 	s := store.New()
 	holding.Put(s, 7, 0, 1, wad.One(), of(100))

@@ -193,6 +193,18 @@ func TestOpen(t *testing.T) {
 	}
 }
 
+func TestMost(t *testing.T) {
+	var l []leaf.Row
+	for token := 1; token <= api.MaxOf; token++ {
+		l = append(l, leaf.Row{Earner: 5, Token: token})
+	}
+	root, _ := leaf.Root(l)
+	c, e := leaf.Claim(l, 5, []int{1, 2, 3, 4, 5, 6, 7, 8})
+	if e != api.OK || leaf.Open(c, root) != api.OK {
+		t.Error(e, leaf.Open(c, root))
+	}
+}
+
 func TestMemory(t *testing.T) {
 	l := table(rand.New(rand.NewSource(3)), 20, 4, 5)
 	sorted, _ := leaf.Sorted(l)

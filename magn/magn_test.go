@@ -61,6 +61,13 @@ func TestErrors(t *testing.T) {
 	}
 }
 
+func TestLeast(t *testing.T) {
+	s := store.New()
+	if was, is, e := magn.Cut(s, 1, 1, 0, wad.One()); was != wad.One() || is != (api.U{}) || e != api.OK {
+		t.Error(was, is, e)
+	}
+}
+
 func TestNobody(t *testing.T) {
 	s := store.New()
 	history.Push(s, 13, []int{0, 1}, 5, of(9))

@@ -106,6 +106,14 @@ func TestErrors(t *testing.T) {
 	}
 }
 
+func TestBeginning(t *testing.T) {
+	s := filled(t)
+	member.Join(s, 9, 0, 5, 0)
+	if e := member.Leave(s, 9, 0, 5, 0, 0); e != api.OK || !member.Slashable(s, 9, 0, 5, 0) || member.Slashable(s, 9, 0, 5, 1) {
+		t.Error(e)
+	}
+}
+
 func TestMembers(t *testing.T) {
 	r := rand.New(rand.NewSource(1))
 	s := filled(t)

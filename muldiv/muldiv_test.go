@@ -132,6 +132,25 @@ func TestEdges(t *testing.T) {
 	}
 }
 
+// TestExact divides products: guesses that are too great by two leave less than
+// nothing, by more than the divisor has bits.
+func TestExact(t *testing.T) {
+	words := []uint64{0, 1, 1 << 63, 1<<63 - 1, math.MaxUint64, math.MaxUint64 - 1}
+	for _, x := range words {
+		for _, y := range words {
+			for _, z := range words {
+				for _, q := range words {
+					d, times := api.U{x, y, math.MaxUint64, z}, api.U{q, y, z, x}
+					checkQuo(t, muldiv.Mul(d, times), d)
+					if got, ok := muldiv.Up(d, times, d); !ok || got != times {
+						t.Fatalf("Up(%v, %v, %v): %v %v", d, times, d, got, ok)
+					}
+				}
+			}
+		}
+	}
+}
+
 func TestExamples(t *testing.T) {
 	if got, ok := muldiv.Down(u256.Of(7), u256.Of(3), u256.Of(2)); !ok || got != u256.Of(10) {
 		t.Error("Down(7, 3, 2)", got, ok)

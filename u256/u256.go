@@ -96,17 +96,17 @@ func nextWord(rest api.U, next uint64, divisor api.U) (uint64, api.U) {
 		guess, _ = bits.Div64(rest[3], rest[2], divisor[3])
 	}
 	left := [5]uint64{next, rest[0], rest[1], rest[2], rest[3]}
-	var carry, borrow, c uint64
+	var carry, borrow uint64
 	for i := range len(divisor) {
 		high, low := bits.Mul64(divisor[i], guess)
-		low, c = bits.Add64(low, carry, 0)
+		low, c := bits.Add64(low, carry, 0)
 		carry = high + c
 		left[i], borrow = bits.Sub64(left[i], low, borrow)
 	}
 	left[4], borrow = bits.Sub64(left[4], carry, borrow)
 	for borrow != 0 {
 		guess--
-		c = 0
+		var c uint64
 		for i := range len(divisor) {
 			left[i], c = bits.Add64(left[i], divisor[i], c)
 		}

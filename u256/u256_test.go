@@ -146,6 +146,31 @@ func TestGuesses(t *testing.T) {
 	}
 }
 
+// TestExact divides products, and numbers next to them: guesses that are too
+// great by two leave less than nothing, by more than the divisor has bits.
+func TestExact(t *testing.T) {
+	words := []uint64{0, 1, 1 << 63, 1<<63 - 1, math.MaxUint64, math.MaxUint64 - 1}
+	for _, x := range words {
+		for _, y := range words {
+			for _, z := range words {
+				b := api.U{x, y, z}
+				for _, q := range words {
+					product, ok := u256.Mul(b, u256.Of(q))
+					if !ok || b == (api.U{}) {
+						continue
+					}
+					for _, r := range []uint64{0, 1, 2} {
+						a, ok := u256.Add(product, u256.Of(r))
+						if got, left, _ := u256.Div(a, b); ok && u256.Cmp(u256.Of(r), b) < 0 && (got != u256.Of(q) || left != u256.Of(r)) {
+							t.Fatalf("Div(%v, %v): %v %v, want %v %v", a, b, got, left, q, r)
+						}
+					}
+				}
+			}
+		}
+	}
+}
+
 func TestSmall(t *testing.T) {
 	if u256.Of(7) != (api.U{7}) || u256.Of(math.MaxUint64) != (api.U{math.MaxUint64}) {
 		t.Error("Of")

@@ -65,6 +65,15 @@ func TestNew(t *testing.T) {
 	}
 }
 
+func TestTokens(t *testing.T) {
+	s := store.New()
+	for i, token := range []int{1, api.MaxToken} {
+		if n, e := vault.New(s, token); n != i+1 || e != api.OK {
+			t.Error(token, n, e)
+		}
+	}
+}
+
 func TestAllow(t *testing.T) {
 	s := filled(t)
 	for _, strategy := range []int{0, 2, -1, math.MinInt, math.MaxInt} {
@@ -198,9 +207,20 @@ func TestSellErrors(t *testing.T) {
 	if a, e := vault.Redeem(s, 1, 8, of(1)); e != api.ErrOver || a != (api.U{}) || s.Mark() != mark {
 		t.Error("an account that has the most", a, e)
 	}
+	if a, e := vault.Redeem(s, 1, 8, of(101)); e != api.ErrFunds || a != (api.U{}) || s.Mark() != mark {
+		t.Error("ErrFunds comes ahead of ErrOver", a, e)
+	}
 	if a, e := vault.Redeem(s, 1, 8, api.U{}); e != api.OK || a != (api.U{}) || s.Mark() != mark {
 		t.Error("no shares", a, e)
 	}
+	if a, e := vault.Redeem(s, 1, 7, of(100)); e != api.OK || a != of(100) || vault.Total(s, 1) != (api.U{}) {
+		t.Error("all shares", a, e)
+	}
+	s.Undo(mark)
+	if a, e := vault.Burn(s, 1, of(100)); e != api.OK || a != of(100) || vault.Total(s, 1) != (api.U{}) {
+		t.Error("all shares", a, e)
+	}
+	s.Undo(mark)
 	cell.SetAmount(s, bank.Stock(1, 1), huge)
 	vault.Redeem(s, 1, 7, of(1))
 	vault.Burn(s, 1, of(1))
