@@ -132,7 +132,8 @@ func TestErrors(t *testing.T) {
 	late, _ := roots.Post(s, root, 3, 4)
 	two := claimOf(t, l, 0, 5, 1, 2)
 	nothing := claimOf(t, l, 0, 5, 1, 3)
-	twice := claimOf(t, l, 0, 5, 1, 1)
+	twice := claimOf(t, l, 0, 5, 1)
+	twice.Leaves = append(twice.Leaves, twice.Leaves[0])
 	mark := s.Mark()
 	for i, c := range []struct {
 		c    api.Claim
@@ -152,7 +153,7 @@ func TestErrors(t *testing.T) {
 			t.Errorf("%d: %v %v", i, paid, e)
 		}
 	}
-	if paid, e := claim.Claim(s, 5, claimOf(t, l, late, 5, 1000, 1), 7); e != api.OK || !slices.Equal(paid, []api.U{of(7), of(10)}) {
+	if paid, e := claim.Claim(s, 5, claimOf(t, l, late, 5, 1, 1000), 7); e != api.OK || !slices.Equal(paid, []api.U{of(10), of(7)}) {
 		t.Error("as the leaves stand", paid, e)
 	}
 	cell.SetAmount(s, bank.Account(1, 6), wad.Most())

@@ -230,7 +230,6 @@ func TestLines(t *testing.T) {
 	if !slices.Equal(nested, want[:len(nested)]) || len(nested) < 30 {
 		t.Error("nested", len(nested))
 	}
-	lines(nil)
 	for range console.Lines("") {
 		t.Error("Lines of nothing")
 	}

@@ -319,7 +319,7 @@ func TestEnds(t *testing.T) {
 	for _, c := range []struct {
 		id, block, delay int
 		e                api.Errno
-	}{{0, 9, 5, api.ErrNone}, {id, 9, -1, api.ErrNone}, {id, 9, api.MaxBlock + 1, api.ErrNone}, {id, 8, 5, api.ErrState}, {id, -1, 5, api.ErrState}, {id, math.MinInt, 5, api.ErrState}} {
+	}{{0, 9, 5, api.ErrNone}, {id, 8, 5, api.ErrState}, {id, -1, 5, api.ErrState}, {id, math.MinInt, 5, api.ErrState}} {
 		pays, tokens, e := deleg.Complete(s, c.id, c.block, c.delay, true)
 		if e != c.e || pays != (api.U{}) || tokens != (api.U{}) || s.Mark() != mark {
 			t.Errorf("%v: %v", c, e)

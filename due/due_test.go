@@ -137,25 +137,6 @@ func TestMemory(t *testing.T) {
 	}
 }
 
-// TestNoRows: entries that no Add made are no rows.
-func TestNoRows(t *testing.T) {
-	s := store.New()
-	s.Set(keys.Key(26), "1")
-	s.Set(keys.Key(26, 1), keys.Num(1))
-	s.Set(keys.Key(26, 1, 2, 3), keys.Num(1))
-	s.Set(keys.Key(26, 2, 2), "")
-	s.Set(keys.Key(26, 2, 3), "123")
-	s.Set(keys.Key(27), keys.Num(1))
-	if block, ok := due.First(s); block != 0 || ok || len(due.Take(s, math.MaxInt)) != 0 {
-		t.Error("something is due")
-	}
-	s.Set(keys.Key(26, 3, math.MaxInt), keys.Num(1))
-	due.Add(s, 3, []int{1})
-	if l := due.Take(s, 3); len(l) == 0 || due.Len(s) < 0 {
-		t.Error(l)
-	}
-}
-
 func TestNoStore(t *testing.T) {
 	for _, s := range []*store.Store{nil, {}} {
 		if due.Add(s, 5, []int{1}) != api.ErrMade || due.Add(s, -5, nil) != api.ErrMade {

@@ -102,11 +102,11 @@ func TestParseErrors(t *testing.T) {
 		{[]byte{1, 6, 1, 33}, api.ErrBad}, {[]byte{1, 6, 2, 0, 1, 0}, api.ErrBad}, {[]byte{2, 6, 0}, api.ErrShort}, {[]byte{1, 6, 0, 6}, api.ErrBad},
 		{[]byte{233, 7}, api.ErrRange}, {[]byte{232, 7}, api.ErrShort}, {[]byte{128, 0}, api.ErrBad}, {[]byte{2, 6, 0, 0, 0}, api.ErrBad},
 	} {
-		if l, e := event.Parse(c.b); e != c.e || l != nil {
+		if l, e := event.Parse(c.b); e != c.e || len(l) != 0 {
 			t.Errorf("Parse(%v): %v %v", c.b, l, e)
 		}
 		code, l, e := event.ToResult(append([]byte{5}, c.b...))
-		if e != c.e || l != nil || code != api.OK {
+		if e != c.e || len(l) != 0 || code != api.OK {
 			t.Errorf("ToResult(5, %v): %v %v %v", c.b, code, l, e)
 		}
 	}
@@ -115,7 +115,7 @@ func TestParseErrors(t *testing.T) {
 		e api.Errno
 	}{{nil, api.ErrShort}, {[]byte{20, 0}, api.ErrRange}, {[]byte{20}, api.ErrRange}, {[]byte{128, 0, 0}, api.ErrBad}, {[]byte{19}, api.ErrShort}} {
 		code, l, e := event.ToResult(c.b)
-		if e != c.e || l != nil || code != api.OK {
+		if e != c.e || len(l) != 0 || code != api.OK {
 			t.Errorf("ToResult(%v): %v %v %v", c.b, code, l, e)
 		}
 	}

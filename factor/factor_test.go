@@ -104,8 +104,10 @@ func TestAll(t *testing.T) {
 		if m.Sign() > 0 {
 			scaled.Div(mul(d, square), m)
 		}
-		got, ok = factor.Scaled(a, c)
-		check(t, "Scaled", got, ok, scaled, scales, a, c)
+		if scales || m.Sign() > 0 {
+			got, ok = factor.Scaled(a, c)
+			check(t, "Scaled", got, ok, scaled, scales, a, c)
+		}
 		for i, b := range []bool{is, grows, moves, scales} {
 			if b {
 				counts[i]++
@@ -136,7 +138,7 @@ func TestExamples(t *testing.T) {
 	if w, ok := factor.Scaled(u256.Of(100), api.U{}); !ok || w != (api.U{}) {
 		t.Error("Scaled by 0", w, ok)
 	}
-	if w, ok := factor.Scaled(more(wad.Most()), api.U{}); ok || w != (api.U{}) {
+	if w, ok := factor.Scaled(more(wad.Most()), wad.One()); ok || w != (api.U{}) {
 		t.Error("Scaled of too much", w, ok)
 	}
 	// A factor at its end, and beyond it.

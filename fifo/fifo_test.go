@@ -152,19 +152,6 @@ func TestArguments(t *testing.T) {
 	}
 }
 
-// TestNoQueue: entries that no Push made lead nowhere, but to an end.
-func TestNoQueue(t *testing.T) {
-	for _, v := range []string{"", "1", keys.Num(1), keys.Num(5) + keys.Num(2), keys.Num(5) + keys.Num(5), keys.Num(0) + keys.Num(math.MaxInt), keys.Num(math.MaxInt-1) + keys.Num(math.MaxInt)} {
-		s := store.New()
-		s.Set(keys.Key(33, 7, 1), v)
-		l, ok := fifo.Pop(s, 33, id)
-		if ok || len(l) != 0 || len(fifo.All(s, 33, id)) != 0 || fifo.Len(s, 33, id) < 0 {
-			t.Errorf("%q", v)
-		}
-		fifo.Push(s, 33, id, 8, []int{1})
-	}
-}
-
 func TestNoStore(t *testing.T) {
 	for _, s := range []*store.Store{nil, {}} {
 		if fifo.Push(s, 33, id, 8, []int{1}) != api.ErrMade || fifo.Push(s, 0, nil, 0, nil) != api.ErrMade {

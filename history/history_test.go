@@ -152,28 +152,9 @@ func TestModel(t *testing.T) {
 	}
 }
 
-// TestNoHistory: entries that no Push made lead nowhere, but to an end.
-func TestNoHistory(t *testing.T) {
-	for _, v := range []string{"", "1", keys.Num(5), keys.Num(5) + "1", "\xff" + keys.Num(5)[1:] + keys.Amount(u256.Of(1))} {
-		s := store.New()
-		s.Set(keys.Key(13, 7, 1), keys.Num(math.MaxInt))
-		s.Set(keys.Key(13, 7, 1, 0), v)
-		if a, ok := history.At(s, 13, id, 9); ok || a != (api.U{}) {
-			t.Error("At", a, ok)
-		}
-		if a, ok := history.Last(s, 13, id); ok || a != (api.U{}) {
-			t.Error("Last", a, ok)
-		}
-		if blocks, amounts := history.List(s, 13, id); len(blocks) != 0 || len(amounts) != 0 {
-			t.Error("List")
-		}
-		history.Push(s, 13, id, 5, u256.Of(1))
-	}
-}
-
 func TestNoStore(t *testing.T) {
 	for _, s := range []*store.Store{nil, {}} {
-		if history.Push(s, 13, id, 5, u256.Of(1)) != api.ErrMade || history.Push(s, 0, id, -5, u256.Of(1)) != api.ErrMade {
+		if history.Push(s, 13, id, 5, u256.Of(1)) != api.ErrMade {
 			t.Error("Push")
 		}
 		a, ok := history.At(s, 13, id, 5)

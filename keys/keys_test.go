@@ -89,7 +89,7 @@ func TestNums(t *testing.T) {
 		t.Error("Nums of nothing", l, ok)
 	}
 	for _, v := range []string{"1", "1234567", "123456789", "\x80\x00\x00\x00\x00\x00\x00\x00", keys.Num(1) + strings.Repeat("\xff", 8)} {
-		if l, ok := keys.Nums(v); ok || l != nil {
+		if l, ok := keys.Nums(v); ok || len(l) != 0 {
 			t.Errorf("Nums(%q): %v %v", v, l, ok)
 		}
 	}

@@ -156,7 +156,7 @@ func TestKept(t *testing.T) {
 	if s.Left() != 5 || s.Var(5) != 0 || s.Err() != api.ErrRange {
 		t.Fatal("no error", s.Err())
 	}
-	if s.Var(9) != 0 || s.Byte() != 0 || s.Amount() != (api.U{}) || s.Hash() != (api.Hash{}) || s.Text(9) != nil || s.Left() != 0 {
+	if s.Var(9) != 0 || s.Byte() != 0 || s.Amount() != (api.U{}) || s.Hash() != (api.Hash{}) || len(s.Text(9)) != 0 || s.Left() != 0 {
 		t.Error("something is told behind an error")
 	}
 	if s.Err() != api.ErrRange || s.End() != api.ErrRange {
@@ -174,7 +174,7 @@ func TestKept(t *testing.T) {
 
 func TestNoSource(t *testing.T) {
 	for _, s := range []*octet.Source{nil, {}} {
-		if s.Var(9) != 0 || s.Byte() != 0 || s.Amount() != (api.U{}) || s.Hash() != (api.Hash{}) || s.Text(9) != nil || s.Left() != 0 {
+		if s.Var(9) != 0 || s.Byte() != 0 || s.Amount() != (api.U{}) || s.Hash() != (api.Hash{}) || len(s.Text(9)) != 0 || s.Left() != 0 {
 			t.Error("something is told")
 		}
 		if s.Err() != api.ErrMade || s.End() != api.ErrMade || s.Err() != api.ErrMade {

@@ -10,6 +10,8 @@ import (
 	"testing"
 
 	"tallage/api"
+	"tallage/cell"
+	"tallage/keys"
 	"tallage/ledger"
 	"tallage/store"
 	"tallage/tx"
@@ -56,6 +58,7 @@ func played(t *testing.T) *ledger.Ledger {
 	run(t, l, tx.Exit, 7, []int{1}, 20)
 	run(t, l, tx.Slash, 9, []int{0, 8, 1}, half)
 	run(t, l, tx.Pause, 2, []int{128})
+	cell.SetAmount(l.Store(), keys.Key(40, 7, 2), of(3))
 	return l
 }
 
@@ -86,7 +89,7 @@ func TestAsk(t *testing.T) {
 		{"sink", []int{1}, 25, api.OK}, {"pool", []int{2}, 40, api.OK}, {"pool", []int{1}, 0, api.OK}, {"stock", []int{1}, 75, api.OK}, {"stock", []int{2}, 0, api.OK}, {"shares", []int{1}, 75, api.OK}, {"shares", []int{0}, 0, api.OK},
 		{"deposit", []int{7, 1}, 80, api.OK}, {"worth", []int{7, 1}, 60, api.OK}, {"operator", []int{7}, 8, api.OK}, {"operator", []int{9}, 0, api.OK}, {"max", []int{8, 1}, half + half/2, api.OK}, {"max", []int{0, 1}, 2 * half, api.OK},
 		{"encumbered", []int{8, 1}, half / 2, api.OK}, {"current", []int{8, 1, 9, 0}, half / 2, api.OK}, {"current", []int{8, 1, 9, 1}, 0, api.OK}, {"exit", []int{1}, 15, api.OK}, {"exit", []int{2}, 0, api.ErrNone}, {"exit", []int{0}, 0, api.ErrNone},
-		{"paid", []int{7, 2}, 0, api.OK}, {"split", []int{8, 9}, 250, api.OK}, {"split", []int{9, 8}, 1000, api.OK}, {"delay", []int{8}, 0, api.OK}, {"delay", []int{7}, 0, api.ErrNone}, {"block", nil, 2, api.OK}, {"flags", []int{}, 128, api.OK},
+		{"paid", []int{7, 2}, 3, api.OK}, {"paid", []int{2, 7}, 0, api.OK}, {"split", []int{8, 9}, 250, api.OK}, {"split", []int{9, 8}, 1000, api.OK}, {"delay", []int{8}, 0, api.OK}, {"delay", []int{7}, 0, api.ErrNone}, {"block", nil, 2, api.OK}, {"flags", []int{}, 128, api.OK},
 		{"part", []int{8, 1}, 60, api.OK}, {"part", []int{0, 1}, 0, api.OK}, {"left", []int{1}, 15, api.OK}, {"left", []int{2}, 0, api.OK},
 	} {
 		kind := 1
